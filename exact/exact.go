@@ -13,6 +13,15 @@ type Sum struct {
 	low  uint64
 }
 
+// Of answers the sum of l.
+func Of(l ...int64) Sum {
+	var s Sum
+	for _, n := range l {
+		s = s.Plus(n)
+	}
+	return s
+}
+
 // Plus answers s and n together.
 func (s Sum) Plus(n int64) Sum {
 	low, carry := bits.Add64(s.low, uint64(n), 0)
@@ -23,6 +32,11 @@ func (s Sum) Plus(n int64) Sum {
 func (s Sum) Minus(o Sum) Sum {
 	low, borrow := bits.Sub64(s.low, o.low, 0)
 	return Sum{s.high - o.high - int64(borrow), low}
+}
+
+// Half answers the half of s, rounded down.
+func (s Sum) Half() Sum {
+	return Sum{s.high >> 1, uint64(s.high)<<63 | s.low>>1}
 }
 
 // Above answers whether s is greater than o.

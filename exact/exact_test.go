@@ -9,15 +9,6 @@ import (
 	"quoin/exact"
 )
 
-// of is the sum of l.
-func of(l ...int64) exact.Sum {
-	var s exact.Sum
-	for _, n := range l {
-		s = s.Plus(n)
-	}
-	return s
-}
-
 func big128(l ...int64) *big.Int {
 	s := new(big.Int)
 	for _, n := range l {
@@ -66,18 +57,42 @@ func lists(do func(l []int64)) {
 
 func TestSums(t *testing.T) {
 	lists(func(l []int64) {
-		if got, want := of(l...).Held(), held(big128(l...)); got != want {
+		var sum exact.Sum
+		for _, n := range l {
+			sum = sum.Plus(n)
+		}
+		if sum != exact.Of(l...) {
+			t.Fatalf("%d: %v at once, %v one by one", l, exact.Of(l...), sum)
+		}
+		if got, want := sum.Held(), held(big128(l...)); got != want {
 			t.Fatalf("%d: %d, not %d", l, got, want)
 		}
 		// What is beyond an int64 is not lost.
 		if n := len(l); n > 1 {
-			less := of(l...).Minus(of(l[1:]...))
+			less := exact.Of(l...).Minus(exact.Of(l[1:]...))
 			if got := less.Held(); got != l[0] {
 				t.Fatalf("%d less all but the first: %d", l, got)
 			}
-			if got, want := of(l[:n/2]...).Minus(of(l[n/2:]...)).Held(), held(new(big.Int).Sub(big128(l[:n/2]...), big128(l[n/2:]...))); got != want {
+			if got, want := exact.Of(l[:n/2]...).Minus(exact.Of(l[n/2:]...)).Held(), held(new(big.Int).Sub(big128(l[:n/2]...), big128(l[n/2:]...))); got != want {
 				t.Fatalf("%d less %d: %d, not %d", l[:n/2], l[n/2:], got, want)
 			}
+		}
+	})
+}
+
+func TestHalf(t *testing.T) {
+	two := big.NewInt(2)
+	lists(func(l []int64) {
+		half := exact.Of(l...).Half()
+		// Of whole numbers Div by a number above 0 rounds down.
+		want := new(big.Int).Div(big128(l...), two)
+		if got := half.Held(); got != held(want) {
+			t.Fatalf("half of %d: %d, not %d", l, got, held(want))
+		}
+		// What is beyond an int64 is not lost.
+		rest := new(big.Int).Sub(big128(l...), want)
+		if got := exact.Of(l...).Minus(half).Held(); got != held(rest) {
+			t.Fatalf("%d less its half: %d, not %d", l, got, held(rest))
 		}
 	})
 }
@@ -86,7 +101,7 @@ func TestAbove(t *testing.T) {
 	lists(func(l []int64) {
 		for n := range len(l) + 1 {
 			a, b := l[:n], l[n:]
-			if got, want := of(a...).Above(of(b...)), big128(a...).Cmp(big128(b...)) > 0; got != want {
+			if got, want := exact.Of(a...).Above(exact.Of(b...)), big128(a...).Cmp(big128(b...)) > 0; got != want {
 				t.Fatalf("%d above %d: %t", a, b, got)
 			}
 		}

@@ -90,8 +90,7 @@ func outer(s *api.Style, n int64) int64 {
 	if s.Width.Kind == api.LFix {
 		n = s.Width.N
 	}
-	var sum exact.Sum
-	sum = sum.Plus(Clamp(n, Min(*s, false, unknown), Max(*s, false, unknown)))
+	sum := exact.Of(Clamp(n, Min(*s, false, unknown), Max(*s, false, unknown)))
 	for _, side := range [2]int{left, right} {
 		sum = sum.Plus(s.Pad[side]).Plus(s.Border[side])
 		if s.Margin[side].Kind == api.LFix {
